@@ -53,7 +53,7 @@ func TestAsk(t *testing.T) {
 		{of(9, 0, api.MaxSeq, 3, 0), 4, true, api.OK},
 		{of(9, 0, 2, 1, 0), 0, false, api.OK},
 		{of(9, 0, 3, 1, 0), 0, false, api.ErrOrder},
-		{of(10, 0, 1<<31 - 3, 1, 0), 0, false, api.OK},
+		{of(10, 0, 1<<31-3, 1, 0), 0, false, api.OK},
 		{of(7, 0, 50, 1, 0), 0, false, api.ErrFenced},
 	} {
 		if base, double, e := producer.Ask(table, c.b); base != c.base || double != c.double || e != c.e {
