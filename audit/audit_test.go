@@ -102,6 +102,8 @@ func TestSound(t *testing.T) {
 		{crafted(two, 7, map[int][]api.Batch{2: {of(0, 2)}, 3: {of(5, 1)}}), api.ErrForm},
 		{crafted(nil, 7, nil), api.OK},
 		{crafted([]api.Link{{Zone: 2}, {Zone: 9}}, 0, nil), api.ErrForm},
+		{crafted([]api.Link{{Zone: 8}}, 0, nil), api.ErrForm},
+		{crafted([]api.Link{{Zone: 7}}, 0, nil), api.OK},
 		{crafted(two, 0, map[int][]api.Batch{2: {from(0, 0), from(1, 1)}, 3: {from(5, 2)}}), api.OK},
 		{crafted(two, 0, map[int][]api.Batch{2: {from(0, 0), from(1, 1)}, 3: {from(5, 9)}}), api.OK},
 		{crafted(two, 0, map[int][]api.Batch{2: {from(0, 0), from(1, 1)}, 3: {from(5, 0)}}), api.ErrForm},

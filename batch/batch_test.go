@@ -29,6 +29,17 @@ func records(deltas ...int) []api.Record {
 
 // P4.1
 func TestCheck(t *testing.T) {
+	edge := full(16, 508)
+	edge.Records[15].Value = ""
+	short, _ := batch.Put(edge)
+	edge.Records[15].Value = strings.Repeat("v", api.MaxFrame-len(short)-1) // its length has a byte more
+	if b, e := batch.Put(edge); len(b) != api.MaxFrame || e != api.OK {
+		t.Error(len(b), e)
+	}
+	edge.Records[15].Value += "v"
+	if b, e := batch.Put(edge); b != nil || e != api.ErrLong {
+		t.Error(len(b), e)
+	}
 	for i, c := range []struct {
 		b api.Batch
 		e api.Errno
@@ -95,7 +106,7 @@ func TestGetErrors(t *testing.T) {
 // P4.3
 func TestLooks(t *testing.T) {
 	b := api.Batch{Base: 10, Count: 8, Records: records(1, 3, 6)}
-	if batch.Next(b) != 18 || batch.Newest(b) != 39 || batch.Newest(api.Batch{}) != -1 {
+	if batch.Next(b) != 18 || batch.Newest(b) != 39 || batch.Newest(api.Batch{}) != -1 || batch.Newest(api.Batch{Records: records(5)}) != 35 {
 		t.Error("next, newest")
 	}
 	if batch.Next(api.Batch{Base: math.MaxInt, Count: 1}) != math.MinInt || batch.Newest(api.Batch{Records: []api.Record{{Time: -7}, {Time: -3}}}) != -3 {

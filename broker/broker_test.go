@@ -83,6 +83,9 @@ func TestFormatAndOpen(t *testing.T) {
 	}{{api.Config{}, api.OK}, {api.Config{Size: 1 << 30, Rate: 1 << 30, Time: -5, Grace: -5}, api.OK}, {api.Config{Size: -1}, api.ErrRange}, {api.Config{Rate: 1<<30 + 1}, api.ErrRange}} {
 		d, _ := zone.New(8, 8)
 		x, e := broker.Format(d, c.c)
+		if e != api.OK && d.Ops() != 0 {
+			t.Error("changed", i)
+		}
 		if broker.Check(c.c) != c.e || e != c.e || (x == nil) != (e != api.OK) {
 			t.Error(i, e)
 		}
@@ -104,6 +107,14 @@ func TestFormatAndOpen(t *testing.T) {
 	j.Add(api.Meta{Kind: api.Makes, Name: "_offsets", Parts: 1, Compact: true})
 	if x, e := broker.Open(d, free); e != api.OK || x.Now() != 0 || len(x.Commits()) != 0 {
 		t.Error(e)
+	}
+	for i, m := range []api.Meta{{Name: "_offsets", Parts: 2, Compact: true}, {Name: "_offsets", Parts: 1}, {Name: "_offset", Parts: 1, Compact: true}} {
+		odd, _ := zone.New(8, 8)
+		j, _ := journal.Format(odd)
+		j.Add(m)
+		if x, e := broker.Open(odd, free); x != nil || e != api.ErrForm {
+			t.Error(i, e)
+		}
 	}
 	for after := range 6 {
 		d.Fail(after, true)
@@ -196,6 +207,8 @@ func TestNamesOfRequests(t *testing.T) {
 		}
 	}
 	asks(t, x, api.Request{Kind: api.Fetch, Topic: "_offsets", Most: 1}, api.Response{})
+	asks(t, x, api.Request{Kind: api.Describe, Topic: "t", Index: 9}, api.Response{Offset: 1, Next: 2, Parts: []int{0, 0, 0, 0}, Names: []string{"t"}}) // what a kind does not use is not looked at
+	asks(t, x, api.Request{Kind: api.Join, Topic: "_v", Group: strings.Repeat("g", 20), Member: "m"}, api.Response{Gen: 1, Names: []string{"m"}})
 }
 
 // P24.3
@@ -210,6 +223,13 @@ func TestProduceAndFetch(t *testing.T) {
 	refuses(t, x, of(0, 11), api.ErrQuota)
 	refuses(t, x, of(0, 99), api.ErrQuota)
 	refuses(t, x, of(0, -5), api.ErrRange)
+	poor := c
+	poor.Size, poor.Rate = 0, 0
+	_, y := fresh(t, 8, 16, poor)
+	ok(t, y, create("t", 1, false))
+	refuses(t, y, of(0, -5), api.ErrRange)
+	refuses(t, y, of(0, 0), api.ErrRange)
+	refuses(t, y, of(0, 1), api.ErrQuota)
 	refuses(t, x, of(1, 5), api.ErrOrder)
 	asks(t, x, of(0, 6), api.Response{Next: 6})
 	asks(t, x, of(6, 1), api.Response{Offset: 6, Next: 7})
@@ -283,7 +303,11 @@ func TestGroups(t *testing.T) {
 	refuses(t, x, sync("a", 2), api.ErrGen)
 	refuses(t, x, api.Request{Kind: api.Beat, Group: "g", Member: "a", Gen: 2}, api.ErrGen)
 	refuses(t, x, api.Request{Kind: api.Beat, Group: "g", Member: "z", Gen: 3}, api.ErrMember)
+	x.Tick(8)
 	asks(t, x, api.Request{Kind: api.Beat, Group: "g", Member: "a", Gen: 3}, api.Response{Gen: 3})
+	if g, _ := x.Group("g"); g.Members[0].Seen != 8 || g.Members[1].Seen != 0 {
+		t.Error(g)
+	}
 	refuses(t, x, api.Request{Kind: api.Leave, Group: "g", Member: "z"}, api.ErrMember)
 	asks(t, x, api.Request{Kind: api.Leave, Group: "g", Member: "b"}, api.Response{Gen: 4, Names: []string{"a", "c"}})
 	for i := range 15 {
@@ -369,6 +393,10 @@ func TestBad(t *testing.T) {
 		t.Error(e)
 	}
 	d.Crash(nil)
+	d.Finish(7)
+	if did, e := x.Work(); did || e != api.ErrState || d.State(7) != zone.Full {
+		t.Error("works", e)
+	}
 	refuses(t, x, api.Request{Kind: api.Describe, Topic: "v"}, api.ErrState)
 	refuses(t, x, api.Request{Kind: api.Beat}, api.ErrState)
 	if a := x.Ask(api.Request{Kind: 99}); a.Err != api.ErrKind {
@@ -439,6 +467,11 @@ func TestWork(t *testing.T) {
 		t.Error(did, e)
 	}
 	refuses(t, x, api.Request{Kind: api.Fetch, Topic: "t", Offset: 3, Most: 1}, api.ErrOffset)
+	ok(t, x, produce("t", keyed("k")))
+	ok(t, x, produce("t", keyed("k")))
+	if did, e := x.Work(); !did || e != api.OK { // one segment goes
+		t.Error(did, e)
+	}
 	var none *broker.Broker
 	if did, e := none.Work(); did || e != api.ErrNil || none.Tick(0) != api.ErrNil {
 		t.Error(did, e)

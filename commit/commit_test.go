@@ -55,6 +55,9 @@ func TestCheck(t *testing.T) {
 			t.Error(time, e, f)
 		}
 	}
+	if r := put(t, commit.Commit{Group: "g", Topic: "t"}, api.MaxTime); r.Time != api.MaxTime {
+		t.Error(r)
+	}
 	if _, e := commit.Put(commit.Commit{}, -1); e != api.ErrName {
 		t.Error(e)
 	}

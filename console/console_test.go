@@ -62,6 +62,9 @@ func TestParse(t *testing.T) {
 			t.Errorf("%q: %v %v", line, s, e)
 		}
 	}
+	if s, e := console.Parse("produce t 0 0 0 0 0 0 v"); e != api.OK || s.Q.Batch.Count != 1 {
+		t.Error(e)
+	}
 	if s, e := console.Parse("produce t 0 0 0 0 0 0" + strings.Repeat(" v", 32)); e != api.OK || s.Q.Batch.Count != 32 || s.Q.Batch.Records[31].Delta != 31 {
 		t.Error(e)
 	}

@@ -81,6 +81,12 @@ func TestJoin(t *testing.T) {
 	if e != api.OK || !group.Same(g, want) || !group.Same(from, sample()) {
 		t.Error(g, e)
 	}
+	roomy := sample()
+	roomy.Members = append(make([]group.Member, 0, 9), roomy.Members...)
+	group.Join(roomy, "b", 7)
+	if !group.Same(roomy, sample()) || roomy.Members[:3][2] != (group.Member{}) {
+		t.Error("changed", roomy)
+	}
 	if g, e := group.Join(group.Group{}, "z", 0); e != api.OK || !group.Same(g, group.Group{Gen: 1, Phase: group.Joining, Members: []group.Member{{ID: "z"}}}) {
 		t.Error(g, e)
 	}

@@ -64,6 +64,9 @@ func TestFind(t *testing.T) {
 
 // P12.3
 func TestByTime(t *testing.T) {
+	if e, ok := index.ByTime(index.Index{List: []index.Entry{{0, 4, 7}, {1, 9, 1}}}, 5); !ok || e.At != 7 {
+		t.Error(e)
+	}
 	x := index.Index{List: []index.Entry{{0, 4, 0}, {1, 9, 1}, {2, 2, 2}, {3, 9, 3}}}
 	for time, want := range map[int]int{2: -1, 3: 2, 4: 2, 9: 2, 10: 3, math.MaxInt: 3, math.MinInt: -1} {
 		e, ok := index.ByTime(x, time)

@@ -168,6 +168,33 @@ func TestFull(t *testing.T) {
 	t.Error("never full")
 }
 
+// P10.2: a turn that has just room, and one whose generation may not be.
+func TestTurnEdges(t *testing.T) {
+	var l []api.Meta
+	for i := range 5 {
+		m := makes(i)
+		m.Name += "-and-twenty-nine-bytes-of-text"
+		l = append(l, m)
+	}
+	d, _ := zone.New(8, 4)
+	write(d, 0, all(1, l...))
+	j, e := journal.Open(d)
+	if e != api.OK || d.State(0) != zone.Full || j.Add(begins(1)) != api.OK || d.State(1) != zone.Full || j.Gen() != 2 {
+		t.Error(e, d.Written(0), d.Written(1))
+	}
+	d, _ = zone.New(8, 4)
+	write(d, 0, all(api.MaxTime, makes(0)))
+	j, _ = journal.Open(d)
+	for i := range 3 {
+		if j.Add(begins(i)) != api.OK {
+			t.Error(i)
+		}
+	}
+	if j.Add(begins(3)) != api.ErrFull || j.Bad() || d.Written(1) != 0 {
+		t.Error("the last generation")
+	}
+}
+
 // P10.2
 func TestBad(t *testing.T) {
 	d, j := fresh(t, 4)

@@ -97,6 +97,9 @@ func TestTotalAndMost(t *testing.T) {
 	if m, ok := lag.Most([]lag.Lag{{Left: -5, Index: 1}, {Left: -7}}); !ok || m.Index != 1 {
 		t.Error(m)
 	}
+	if m, ok := lag.Most([]lag.Lag{{Left: 5}}); !ok || m.Left != 5 {
+		t.Error(m)
+	}
 	if m, ok := lag.Most(nil); ok || m != (lag.Lag{}) {
 		t.Error(m)
 	}

@@ -111,6 +111,15 @@ func TestPutAll(t *testing.T) {
 		}
 	}
 	// 3 bytes each behind 1 and 2: 8192 bytes are 2729 and two thirds
+	edge := slices.Repeat([]api.Meta{{Kind: api.Deletes}}, 2729)
+	edge[0].Topic, edge[1].Topic = 64, 64 // a byte more each
+	if b, e := meta.PutAll(0, edge); len(b) != api.MaxFrame || e != api.OK {
+		t.Error(len(b), e)
+	}
+	edge[2].Topic = 64
+	if b, e := meta.PutAll(0, edge); b != nil || e != api.ErrLong {
+		t.Error(len(b), e)
+	}
 	for n, want := range map[int]api.Errno{2729: api.OK, 2730: api.ErrLong} {
 		if _, e := meta.PutAll(0, make([]api.Meta, 0, n)); e != api.OK {
 			t.Error(e)

@@ -144,6 +144,17 @@ func TestStart(t *testing.T) {
 	if m, did, e := mirror.Step(first, from, to); p.Start() == 0 || m != (mirror.Mirror{"t", 0, 9, p.Start(), 0}) || !did || e != api.OK || len(batches(to)) != 0 {
 		t.Error(m, did, e)
 	}
+	second := mirror.Mirror{Topic: "t", Index: 1, Producer: 9}
+	for range 12 {
+		from.Ask(api.Request{Kind: api.Produce, Topic: "t", Index: 1, Batch: two("a")})
+	}
+	for did := true; did; {
+		did, _ = from.Work()
+	}
+	q, _ := from.Part(api.Part{Topic: 1, Index: 1})
+	if m, did, e := mirror.Step(second, from, to); q.Start() == 0 || q.Start() == p.Start() || m != (mirror.Mirror{"t", 1, 9, q.Start(), 0}) || !did || e != api.OK {
+		t.Error(m, did, e)
+	}
 	if m, n, e := mirror.Run(first, from, to, 99); e != api.OK || n != 1+len(batches(from)) || m.At != 80 || !mirror.Same(from, to, "t", 0) {
 		t.Error(m, n, e)
 	}

@@ -79,11 +79,14 @@ func TestOpen(t *testing.T) {
 		t.Error(again.Table())
 	}
 	var none *part.Part
-	_, _, e1 := none.Produce(of(0, 0, 0, 1), true)
+	n1, _, e1 := none.Produce(of(0, 0, 0, 1), true)
 	_, e2 := none.Fetch(0, 1)
-	_, _, e3 := none.ByTime(0)
-	_, e4 := none.Retain(retain.Rule{}, 0)
+	n3, _, e3 := none.ByTime(0)
+	n4, e4 := none.Retain(retain.Rule{}, 0)
 	_, e5 := none.Clean(0, 0)
+	if n1 != 0 || n3 != 0 || n4 != 0 {
+		t.Error(n1, n3, n4)
+	}
 	for i, e := range []api.Errno{e1, e2, e3, e4, e5, none.Flush()} {
 		if e != api.ErrNil {
 			t.Error(i, e)
@@ -124,8 +127,8 @@ func TestProduce(t *testing.T) {
 func TestProduceEdges(t *testing.T) {
 	d, j, x := fresh(t, 8, 4)
 	j.Add(api.Meta{Kind: api.Begins, Base: api.MaxOffset - 2})
-	if _, _, e := x.Produce(of(0, 0, 0, 3), true); e != api.ErrOverflow {
-		t.Error(e)
+	if base, _, e := x.Produce(of(0, 0, 0, 3), true); base != 0 || e != api.ErrOverflow {
+		t.Error(base, e)
 	}
 	if base, _, e := x.Produce(of(0, 0, 0, 2), true); base != api.MaxOffset-2 || e != api.OK {
 		t.Error(base, e)
@@ -245,6 +248,31 @@ func TestCleanOfDeadAndFull(t *testing.T) {
 	produce(t, x, keyed("a", 0), keyed("b", 0), keyed("a", 1), keyed("c", 0), keyed("d", 2))
 	if did, e := x.Clean(0, 0); did || e != api.ErrFull || len(x.Batches()) != 5 || x.Bad() {
 		t.Error(did, e)
+	}
+}
+
+// P18.5: keys that stand at several places of one batch.
+func TestCleanWithin(t *testing.T) {
+	_, _, x := fresh(t, 8, 4)
+	record := func(delta int, key string) api.Record {
+		return api.Record{Delta: delta, Keyed: true, Key: key, Value: strings.Repeat("v", 30)}
+	}
+	produce(t, x, api.Batch{Count: 3, Records: []api.Record{record(0, "a"), record(1, "b"), record(2, "a")}}, api.Batch{Count: 2, Records: []api.Record{record(1, "b")}}, keyed("c", 0), keyed("d", 0))
+	if did, e := x.Clean(0, 0); !did || e != api.OK || !slices.Equal(at(x.Batches()), []int{2, 4, 5, 6}) {
+		t.Error(did, e, at(x.Batches()))
+	}
+}
+
+// P18.4, P18.5: with an error nothing is told.
+func TestRetainFails(t *testing.T) {
+	d, _, x := fresh(t, 12, 4)
+	produce(t, x, keyed("a", 0), keyed("b", 0), keyed("c", 0))
+	d.Fail(0, false)
+	if n, e := x.Retain(retain.Rule{Time: -1, Blocks: 0}, 0); n != 0 || e != api.ErrDown {
+		t.Error(n, e)
+	}
+	if base, double, e := x.Produce(keyed("a", 0), true); base != 0 || double || e != api.ErrState {
+		t.Error(base, double, e)
 	}
 }
 

@@ -2,6 +2,7 @@ package producer_test
 
 import (
 	"math"
+	"math/big"
 	"math/rand/v2"
 	"testing"
 
@@ -110,6 +111,22 @@ func TestCut(t *testing.T) {
 	}
 	if got := producer.Cut(table, 3); len(got.List) != 3 || len(got.List[0].Last) != 1 {
 		t.Error(got)
+	}
+}
+
+// P13.3: also where no int tells the sum.
+func TestCutOfGreatNumbers(t *testing.T) {
+	edges := []int{math.MinInt, math.MinInt + 1, -5, -1, 0, 1, 5, math.MaxInt - 1, math.MaxInt}
+	for _, base := range edges {
+		for _, count := range edges {
+			for _, next := range edges {
+				sum := new(big.Int).Add(big.NewInt(int64(base)), big.NewInt(int64(count)))
+				table := producer.Table{List: []producer.Entry{{ID: 1, Last: []producer.Seen{{Base: base, Count: count}}}}}
+				if goes := len(producer.Cut(table, next).List) == 0; goes != (sum.Cmp(big.NewInt(int64(next))) > 0) {
+					t.Error(base, count, next)
+				}
+			}
+		}
 	}
 }
 

@@ -80,6 +80,15 @@ func TestPut(t *testing.T) {
 	if b, e := script.Put(long); len(b) != 65325 || e != api.OK {
 		t.Error(len(b), e)
 	}
+	edge := append(slices.Repeat(long[:1], 978), slices.Repeat([]world.Step{{Kind: world.Opens}}, 5)...)
+	if b, e := script.Put(edge); len(b) != api.MaxScript || e != api.OK {
+		t.Error(len(b), e)
+	} else if l, e := script.Get(b); len(l) != 983 || e != api.OK {
+		t.Error(len(l), e)
+	}
+	if b, e := script.Put(append(edge, world.Step{Kind: world.Opens})); b != nil || e != api.ErrLong {
+		t.Error(len(b), e)
+	}
 	if b, e := script.Put(append(long, long[:4]...)); b != nil || e != api.ErrLong {
 		t.Error(e)
 	}
@@ -117,6 +126,10 @@ func TestPlay(t *testing.T) {
 		if a, e := wire.GetResponse(b); e != api.OK || !wire.SameResponse(a, want[i]) {
 			t.Error(i, a, e)
 		}
+	}
+	got, n = script.Play(w, []world.Step{{Q: api.Request{Kind: api.Committed, Topic: "z"}}})
+	if a, e := wire.GetResponse(got[0]); n != 1 || e != api.OK || !wire.SameResponse(a, api.Response{Kind: api.Committed, Err: api.ErrNone}) {
+		t.Error(a, e)
 	}
 	got, n = script.Play(nil, l[:3])
 	if a, e := wire.GetResponse(got[1]); n != 3 || e != api.OK || !wire.SameResponse(a, api.Response{Kind: api.Produce, Err: api.ErrNil}) {

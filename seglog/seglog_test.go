@@ -161,6 +161,36 @@ func TestNoZone(t *testing.T) {
 	}
 }
 
+// P15.2, P15.5: what has just room.
+func TestJustRoom(t *testing.T) {
+	d, j, l := fresh(t, 12, 4)
+	if l.Append(of(0, 221), true) != api.OK || d.Written(2) != 4 || l.Append(of(1, 222), true) != api.ErrLong {
+		t.Error(d.Written(2))
+	}
+	appends(t, l, 5, true)
+	if e := l.Swap(2, []api.Batch{of(0, 221)}); e != api.OK || d.Written(chain(j)[0].Zone) != 4 {
+		t.Error(e)
+	}
+	if e := l.Swap(2, []api.Batch{of(0, 221), of(1, 1)}); e != api.ErrLong {
+		t.Error(e)
+	}
+}
+
+// P15.5: the power fails at each step of a Swap.
+func TestSwapFails(t *testing.T) {
+	for _, list := range [][]api.Batch{nil, {of(0, 1)}} {
+		for after := range 2 + 3*len(list) {
+			d, j, l := fresh(t, 12, 4)
+			appends(t, l, 5, true)
+			old := all(l)
+			d.Fail(after, false)
+			if l.Swap(1, list) != api.ErrDown || !l.Bad() || len(chain(j)) != 3 || !slices.EqualFunc(all(l), old, batch.Same) {
+				t.Error(after, len(chain(j)))
+			}
+		}
+	}
+}
+
 // P15.2: a torn block seals the log.
 func TestTorn(t *testing.T) {
 	d, j, l := fresh(t, 8, 8)
@@ -186,7 +216,7 @@ func TestFetch(t *testing.T) {
 		offset, most, first, n int
 		e                      api.Errno
 	}{
-		{0, 99, 0, 6, api.OK}, {1, 3, 1, 3, api.OK}, {6, 9, 5, 1, api.OK}, {8, 9, 0, 0, api.OK}, {9, 9, 0, 0, api.ErrOffset}, {-1, 9, 0, 0, api.ErrOffset},
+		{0, 99, 0, 6, api.OK}, {1, 3, 1, 3, api.OK}, {0, 3, 0, 3, api.OK}, {0, 1, 0, 1, api.OK}, {0, 2, 0, 2, api.OK}, {6, 9, 5, 1, api.OK}, {8, 9, 0, 0, api.OK}, {9, 9, 0, 0, api.ErrOffset}, {-1, 9, 0, 0, api.ErrOffset},
 		{0, 0, 0, 0, api.OK}, {0, -1, 0, 0, api.OK}, {math.MaxInt, math.MaxInt, 0, 0, api.ErrOffset},
 	} {
 		b, e := l.Fetch(c.offset, c.most)
@@ -218,8 +248,8 @@ func TestDrop(t *testing.T) {
 		t.Error(l.Start(), chain(j))
 	}
 	j.Add(api.Meta{Kind: api.Begins, Base: 6})
-	before := j.State()
-	if l.Drop(1) != api.OK || l.Start() != 6 || !slices.Equal(chain(j), []api.Link{{Zone: 5, Base: 6}}) || state.Same(before, j.State()) {
+	before, ops := j.State(), d.Ops()
+	if l.Drop(1) != api.OK || d.Ops() != ops+2 || l.Start() != 6 || !slices.Equal(chain(j), []api.Link{{Zone: 5, Base: 6}}) || state.Same(before, j.State()) {
 		t.Error(l.Start(), chain(j))
 	}
 }
@@ -291,6 +321,11 @@ func TestLooks(t *testing.T) {
 		t.Error("another part")
 	}
 	j.Add(api.Meta{Kind: api.Links, Zone: 7, Base: 10})
+	d.Finish(7)
+	if !l.Sealed() {
+		t.Error("the zone from elsewhere is full")
+	}
+	d.Reset(7)
 	if len(l.Segments()) != 2 || l.Append(of(10, 1), true) != api.OK || d.Written(7) != 1 {
 		t.Error("a link from elsewhere")
 	}

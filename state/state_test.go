@@ -24,6 +24,21 @@ func TestCheck(t *testing.T) {
 	if state.Check(sample()) != api.OK || state.Check(api.State{}) != api.OK || state.Check(api.State{Next: api.MaxSeq}) != api.OK {
 		t.Error("good ones")
 	}
+	for _, ids := range [][2]int{{4, 1}, {4, 4}} { // the chains are just the topics' parts
+		s := api.State{Next: 6}
+		for i, id := range ids {
+			s.Topics = append(s.Topics, api.Topic{ID: id, Name: string(rune('a' + i)), Parts: 1})
+			s.Chains = append(s.Chains, api.Chain{Part: api.Part{Topic: id}})
+		}
+		if state.Check(s) != api.ErrForm {
+			t.Error(ids)
+		}
+	}
+	top := sample()
+	top.Chains[0].Start, top.Chains[0].Links[1].Base = api.MaxOffset, api.MaxOffset
+	if state.Check(top) != api.OK {
+		t.Error("the last offset")
+	}
 	many := api.State{Next: 17}
 	for i := range 17 {
 		many.Topics = append(many.Topics, api.Topic{ID: i, Name: "t" + strconv.Itoa(i), Parts: 1})
@@ -78,7 +93,7 @@ func TestStepErrors(t *testing.T) {
 		{sample(), api.Meta{Kind: 7}, api.ErrKind}, {sample(), makes(6, ""), api.ErrName}, {sample(), api.Meta{Kind: api.Skips, Topic: 5}, api.ErrOrder},
 		{sample(), api.Meta{Kind: api.Deletes, Topic: 2}, api.ErrNone}, {sample(), link(api.Links, 2, 0, 0, 9, 9), api.ErrNone}, {sample(), link(api.Links, 1, 2, 0, 0, 9), api.ErrNone},
 		{sample(), link(api.Begins, 4, 1, 0, 0, 9), api.ErrNone}, {sample(), link(api.Unlinks, 1, 3, 0, 5, 0), api.ErrNone}, {sample(), link(api.Swaps, 3, 0, 1, 9, 3), api.ErrNone},
-		{sample(), link(api.Links, 1, 0, 0, 1, 0), api.ErrRange}, {sample(), link(api.Links, 1, 0, 0, 2, 0), api.ErrThere}, {sample(), link(api.Links, 1, 0, 0, 9, 8), api.ErrOrder},
+		{sample(), link(api.Links, 1, 0, 0, 1, 0), api.ErrRange}, {sample(), link(api.Links, 1, 0, 0, 2, 0), api.ErrThere}, {sample(), link(api.Links, 1, 0, 0, 9, 8), api.ErrOrder}, {api.State{Next: 1, Topics: []api.Topic{{Name: "a", Parts: 1}}, Chains: []api.Chain{{Links: []api.Link{{Zone: 5, Base: 4}}}}}, link(api.Links, 0, 0, 0, 9, 3), api.ErrOrder},
 		{sample(), link(api.Unlinks, 1, 0, 0, 7, 0), api.ErrNone}, {sample(), link(api.Unlinks, 1, 1, 0, 7, 0), api.ErrNone},
 		{sample(), link(api.Swaps, 1, 0, 2, 0, 0), api.ErrArg}, {sample(), link(api.Swaps, 1, 0, 0, 9, 3), api.ErrArg}, {sample(), link(api.Swaps, 1, 0, 1, 0, 3), api.ErrArg}, {sample(), link(api.Swaps, 1, 1, 0, 0, 0), api.ErrArg},
 		{sample(), link(api.Swaps, 1, 0, 1, 1, 0), api.ErrRange}, {sample(), link(api.Swaps, 1, 0, 1, 5, 0), api.ErrThere}, {sample(), link(api.Swaps, 1, 0, 1, 9, 1), api.ErrOrder}, {sample(), link(api.Swaps, 1, 0, 1, 9, 10), api.ErrOrder},
@@ -122,7 +137,16 @@ func TestSteps(t *testing.T) {
 	if topic, ok := state.Topic(s, "c"); e != api.OK || !ok || topic != (api.Topic{ID: 6, Name: "c", Parts: 2, Compact: true}) || s.Next != 7 || len(s.Chains) != 5 {
 		t.Error(s, e)
 	}
-	s, e = state.Step(sample(), api.Meta{Kind: api.Deletes, Topic: 1})
+	from := sample()
+	from.Topics = append(make([]api.Topic, 0, 9), from.Topics...)
+	state.Step(from, api.Meta{Kind: api.Makes, Topic: 6, Name: "c", Parts: 2})
+	if from.Topics[:3][2] != (api.Topic{}) {
+		t.Error("spare room is written")
+	}
+	s, e = state.Step(from, api.Meta{Kind: api.Deletes, Topic: 1})
+	if !state.Same(from, sample()) {
+		t.Error("changed")
+	}
 	if e != api.OK || len(s.Topics) != 1 || len(s.Chains) != 1 || s.Chains[0].Part.Topic != 4 || s.Next != 6 {
 		t.Error(s, e)
 	}

@@ -97,6 +97,12 @@ func TestReaderTakes(t *testing.T) {
 	if n := r.Num(); n != -2 || r.Left() != 4 || r.Err() != api.OK || r.Done() != api.ErrForm || r.Err() != api.OK {
 		t.Error(n, r.Left(), r.Err())
 	}
+	if n := varnum.New([]byte{0x80}).Num(); n != 0 {
+		t.Error(n)
+	}
+	if q := varnum.New([]byte{2}); q.Num() != 1 || q.Done() != api.OK || q.Left() != 0 {
+		t.Error("done")
+	}
 	if r.Fixed(9) != 0 || r.Err() != api.ErrCut || r.Left() != 4 || r.Done() != api.ErrCut {
 		t.Error(r.Left(), r.Err())
 	}

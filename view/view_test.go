@@ -235,6 +235,12 @@ func TestCatch(t *testing.T) {
 	if got, n, e := view.Catch(old, x, 1); n != 0 || e != api.OK || !view.Same(got, view.View{Next: x.Start(), Rows: old.Rows}) {
 		t.Error(got, n, e)
 	}
+	if got, _, _ := view.Catch(old, x, 0); len(got.Rows) == 1 {
+		got.Rows[0].Key = "changed"
+	}
+	if old.Rows[0].Key != "gone" {
+		t.Error("shared")
+	}
 	got, n, e := view.Catch(old, x, 99)
 	if _, there := view.Get(got, "gone"); n != len(x.Batches()) || e != api.OK || !there || got.Next != 24 || !view.Same(old, view.View{Next: 2, Rows: []view.Row{{"gone", "v", 1, 0}}}) {
 		t.Error(got, n, e)

@@ -114,6 +114,16 @@ func TestFeed(t *testing.T) {
 	if s, l = feed(t, s, "a", 35, 2); !slices.Equal(l, []window.Sum{{20, "a", 1, -1, -1, -1}, {20, "b", 1, 4, 4, 4}}) || !slices.Equal(s.Open, []window.Sum{{30, "a", 2, 4, 2, 2}}) {
 		t.Error(s, l)
 	}
+	roomy := sample()
+	roomy.Open = append(make([]window.Sum, 0, 9), roomy.Open...)
+	feed(t, roomy, "0", 12, 1)
+	feed(t, roomy, "a", 12, 1)
+	if !window.Same(roomy, sample()) {
+		t.Error("changed", roomy)
+	}
+	if s, _ := feed(t, sample(), strings.Repeat("k", 64), 12, 1); len(s.Open) != 4 {
+		t.Error(s)
+	}
 	s.Drops = api.MaxTime
 	if s, _ = feed(t, s, "a", 0, 1); s.Drops != api.MaxTime {
 		t.Error(s.Drops)
@@ -177,8 +187,10 @@ func TestCloseAndTotal(t *testing.T) {
 	if n, total := window.Total(nil); n != 0 || total != 0 {
 		t.Error(n, total)
 	}
+	mine := sample()
+	_, l = window.Close(mine)
 	l[0].Count = 99
-	if sample := sample(); sample.Open[0].Count != 2 {
+	if !window.Same(mine, sample()) {
 		t.Error("shared")
 	}
 }

@@ -18,7 +18,7 @@ func one() api.Batch {
 // requests lists one of each kind, with all fields that it uses.
 func requests() []api.Request {
 	return []api.Request{
-		{Kind: api.Create, Topic: "t", Parts: 3, Compact: true}, {Kind: api.Remove, Topic: "t"}, {Kind: api.Describe, Topic: ""},
+		{Kind: api.Create, Topic: "t", Parts: 3, Compact: true}, {Kind: api.Remove, Topic: strings.Repeat("t", 255)}, {Kind: api.Join, Member: strings.Repeat("m", 255)}, {Kind: api.Describe, Topic: ""},
 		{Kind: api.Produce, Topic: "t", Index: 1, Flush: true, Batch: one()}, {Kind: api.Fetch, Topic: "t", Index: 1, Offset: math.MaxInt, Most: -1},
 		{Kind: api.ByTime, Topic: "t", Index: math.MinInt, Time: 9}, {Kind: api.Join, Group: "g", Member: "a"}, {Kind: api.Sync, Topic: "t", Group: "g", Member: "a", Gen: 2},
 		{Kind: api.Beat, Group: "g", Member: "a", Gen: 2}, {Kind: api.Leave, Group: strings.Repeat("g", 255), Member: "a"}, {Kind: api.Commit, Topic: "t", Index: 1, Offset: 2, Group: "g", Member: "a", Gen: 3},

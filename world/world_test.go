@@ -105,8 +105,8 @@ func TestFailsAndCrashes(t *testing.T) {
 			t.Error(kind, e)
 		}
 	}
-	if _, e := w.Settle(9); e != api.ErrState {
-		t.Error(e)
+	if n, e := w.Settle(9); n != 0 || e != api.ErrState {
+		t.Error(n, e)
 	}
 	if a, e := w.Do(world.Step{Kind: world.Crashes, Fate: []byte{0, 9}}); e != api.OK || !wire.SameResponse(a, api.Response{}) || w.Down() || len(batches(w)) != 1 {
 		t.Error(a, e)
@@ -164,8 +164,8 @@ func TestWorksAndSettle(t *testing.T) {
 	if n, e := w.Settle(99); n != 0 || e != api.ErrState {
 		t.Error(n, e)
 	}
-	if _, e := (*world.World)(nil).Settle(0); e != api.ErrNil {
-		t.Error(e)
+	if n, e := (*world.World)(nil).Settle(0); n != 0 || e != api.ErrNil {
+		t.Error(n, e)
 	}
 }
 

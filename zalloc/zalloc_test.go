@@ -90,7 +90,7 @@ func TestSweep(t *testing.T) {
 	if z, e := zalloc.Sweep(d, owning()); z != 0 || e != api.ErrDown {
 		t.Error(z, e)
 	}
-	if _, e := zalloc.Sweep(nil, owning()); e != api.ErrNil {
+	if z, e := zalloc.Sweep(nil, owning()); z != 0 || e != api.ErrNil {
 		t.Error(e)
 	}
 }

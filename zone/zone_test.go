@@ -55,16 +55,16 @@ func TestAppendAndRead(t *testing.T) {
 			t.Error(i, d.State(2))
 		}
 	}
-	if _, e := d.Append(2, fill(1)); e != api.ErrZone {
-		t.Error(e)
+	if i, e := d.Append(2, fill(1)); i != 0 || e != api.ErrZone {
+		t.Error(i, e)
 	}
-	if _, e := d.Append(2, fill(1)[:63]); e != api.ErrArg {
-		t.Error(e)
+	if i, e := d.Append(2, fill(1)[:63]); i != 0 || e != api.ErrArg {
+		t.Error(i, e)
 	}
 	for _, z := range []int{-1, 20, 1 << 40} {
-		_, e := d.Append(z, nil)
+		i, e := d.Append(z, nil)
 		_, f := d.Read(z, 0)
-		if e != api.ErrRange || f != api.ErrRange || d.Reset(z) != api.ErrRange || d.Finish(z) != api.ErrRange {
+		if i != 0 || e != api.ErrRange || f != api.ErrRange || d.Reset(z) != api.ErrRange || d.Finish(z) != api.ErrRange {
 			t.Error(z, e, f)
 		}
 	}
@@ -98,7 +98,7 @@ func TestOpenZones(t *testing.T) {
 	for z := range 14 {
 		put(t, d, z, 1)
 	}
-	if _, e := d.Append(14, fill(1)); e != api.ErrOpen || d.Opened() != 14 {
+	if i, e := d.Append(14, fill(1)); i != 0 || e != api.ErrOpen || d.Opened() != 14 {
 		t.Error(e)
 	}
 	put(t, d, 13, 1)
