@@ -9,6 +9,7 @@ import (
 
 	"bilander/api"
 	"bilander/batch"
+	"bilander/frame"
 	"bilander/journal"
 	"bilander/seglog"
 	"bilander/segment"
@@ -187,6 +188,42 @@ func TestSwapFails(t *testing.T) {
 			if l.Swap(1, list) != api.ErrDown || !l.Bad() || len(chain(j)) != 3 || !slices.EqualFunc(all(l), old, batch.Same) {
 				t.Error(after, len(chain(j)))
 			}
+		}
+	}
+}
+
+func put(d *zone.Dev, z int, bodies ...[]byte) {
+	for _, b := range bodies {
+		l, _ := frame.Lay(b)
+		for _, x := range l {
+			d.Append(z, x)
+		}
+	}
+}
+
+// P15.1: a link's batches end where a body is none, or may not stand there.
+func TestWhatAZoneHolds(t *testing.T) {
+	bytes := func(b api.Batch) []byte {
+		out, _ := batch.Put(b)
+		return out
+	}
+	for i, c := range []struct {
+		bodies [][]byte
+		next   int
+		sealed bool
+	}{
+		{nil, 4, false}, {[][]byte{bytes(of(4, 1)), bytes(of(9, 1))}, 10, false}, {[][]byte{bytes(of(3, 1)), bytes(of(9, 1))}, 4, true},
+		{[][]byte{bytes(of(4, 1)), bytes(of(4, 1)), bytes(of(9, 1))}, 5, true}, {[][]byte{bytes(of(4, 1)), []byte("none"), bytes(of(9, 1))}, 5, true},
+	} {
+		d, j, _ := fresh(t, 8, 8)
+		j.Add(api.Meta{Kind: api.Links, Zone: 5, Base: 4})
+		put(d, 5, c.bodies...)
+		l, e := seglog.Open(d, j, first)
+		if e != api.OK || l.Next() != c.next || l.Sealed() != c.sealed || l.Segments()[0].Base != 4 {
+			t.Error(i, e, l.Next(), l.Sealed())
+		}
+		if e := l.Append(of(c.next, 1), true); e != api.OK || (len(chain(j)) == 2) != c.sealed {
+			t.Error(i, e, chain(j))
 		}
 	}
 }

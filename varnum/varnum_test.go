@@ -103,6 +103,9 @@ func TestReaderTakes(t *testing.T) {
 	if q := varnum.New([]byte{2}); q.Num() != 1 || q.Done() != api.OK || q.Left() != 0 {
 		t.Error("done")
 	}
+	if q := varnum.New([]byte{2, 2}); q.Num() != 1 || q.Done() != api.ErrForm || q.Num() != 1 || q.Done() != api.OK {
+		t.Error("done with a byte left")
+	}
 	if r.Fixed(9) != 0 || r.Err() != api.ErrCut || r.Left() != 4 || r.Done() != api.ErrCut {
 		t.Error(r.Left(), r.Err())
 	}
